@@ -541,36 +541,42 @@ func operationsOnLogarithms() map[string]func(f impl.Plane, a impl.Series) (impl
 	}
 }
 
-// TestLogarithmsMemory checks that no function changes an argument or the spare capacity behind it,
-// that results share no memory with arguments or within themselves, and that equal calls have equal
-// results.
+// checkMemory checks that an operation on a law and a curve of it, modulo 7 and of degree 4, does not
+// change an argument or the spare capacity behind it, that its result shares no memory with arguments
+// or within itself, and that equal calls have equal results.
+func checkMemory(t *testing.T, name string, operation func(f impl.Plane, a impl.Series) (impl.Plane, int64)) {
+	t.Helper()
+	memory := []int64{0, 1, 0, 0, 0, 50, 1, 3, 0, 0, 51, 0, 0, 0, 52, 0, 0, 53, 0, 54, 0, 2, 5, 6, 1, 55}
+	before := append([]int64(nil), memory...)
+	tables := [][]int64{memory[:5], memory[6:10], memory[11:14], memory[15:17], memory[18:19], memory[19:20]}
+	lists := append([][]int64(nil), tables...)
+	f, a := plane(7, tables[:5]...), series(7, memory[20:25]...)
+	first, code := operation(f, a)
+	if code != impl.ErrNone || first.Modulus != 7 || len(first.Table) == 0 {
+		t.Errorf("%s = %v, %d", name, first, code)
+	}
+	want := copyOfPlane(first)
+	for i := range first.Table {
+		row := first.Table[i][:cap(first.Table[i])]
+		for j := range row {
+			row[j] = -1
+		}
+		for k := i + 1; k < len(first.Table); k++ {
+			if !reflect.DeepEqual(first.Table[k], want.Table[k]) {
+				t.Errorf("%s: the lists %d and %d share memory", name, i, k)
+			}
+		}
+	}
+	spoil(first)
+	if !reflect.DeepEqual(memory, before) || !reflect.DeepEqual(tables, lists) {
+		t.Errorf("%s changed or kept its arguments: %v, %v", name, memory, tables)
+	}
+	wantsPlane(t, name, want, impl.ErrNone)(operation(f, a))
+}
+
+// TestLogarithmsMemory checks all functions of the chapter.
 func TestLogarithmsMemory(t *testing.T) {
 	for name, operation := range operationsOnLogarithms() {
-		memory := []int64{0, 1, 0, 0, 0, 50, 1, 3, 0, 0, 51, 0, 0, 0, 52, 0, 0, 53, 0, 54, 0, 2, 5, 6, 1, 55}
-		before := append([]int64(nil), memory...)
-		tables := [][]int64{memory[:5], memory[6:10], memory[11:14], memory[15:17], memory[18:19], memory[19:20]}
-		lists := append([][]int64(nil), tables...)
-		f, a := plane(7, tables[:5]...), series(7, memory[20:25]...)
-		first, code := operation(f, a)
-		if code != impl.ErrNone || first.Modulus != 7 || len(first.Table) == 0 {
-			t.Errorf("%s = %v, %d", name, first, code)
-		}
-		want := copyOfPlane(first)
-		for i := range first.Table {
-			row := first.Table[i][:cap(first.Table[i])]
-			for j := range row {
-				row[j] = -1
-			}
-			for k := i + 1; k < len(first.Table); k++ {
-				if !reflect.DeepEqual(first.Table[k], want.Table[k]) {
-					t.Errorf("%s: the lists %d and %d share memory", name, i, k)
-				}
-			}
-		}
-		spoil(first)
-		if !reflect.DeepEqual(memory, before) || !reflect.DeepEqual(tables, lists) {
-			t.Errorf("%s changed or kept its arguments: %v, %v", name, memory, tables)
-		}
-		wantsPlane(t, name, want, impl.ErrNone)(operation(f, a))
+		checkMemory(t, name, operation)
 	}
 }
