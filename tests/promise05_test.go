@@ -94,6 +94,28 @@ func TestPromise5AllLaws(t *testing.T) {
 	}
 }
 
+// TestPromise5StandardLaws checks standard laws of chapter 8: their logarithms tell them, and multiples by
+// logarithms are multiples.
+func TestPromise5StandardLaws(t *testing.T) {
+	numbers := []int64{-1000000, -37, -1, 0, 2, 61, 1024, 999999}
+	for _, m := range moduliOfLogarithms {
+		for _, d := range degreesOfLaws {
+			if !haveInverses(m, d) {
+				continue
+			}
+			for k, f := range standardLaws(t, m, d) {
+				a := made(t, "LogarithmOf")(impl.LogarithmOf(f))
+				wantsPlane(t, "LawOfCurve of the logarithm", f, impl.ErrNone)(impl.LawOfCurve(a))
+				for n := range 3 {
+					number := numbers[(k*3+n)%len(numbers)]
+					want := made(t, "MultipleOf")(impl.MultipleOf(f, number))
+					wantsSeries(t, "MultipleByLogarithm", want, impl.ErrNone)(impl.MultipleByLogarithm(f, number))
+				}
+			}
+		}
+	}
+}
+
 // TestGuarantee5Curves checks that laws of curves are laws that have the curves, divided by their
 // coefficients at t, as logarithms, also where other numbers are no units.
 func TestGuarantee5Curves(t *testing.T) {
