@@ -438,17 +438,21 @@ func lawOfRationals(differential rationals) [11][11]*big.Rat {
 	return lawOverRationals(logarithm)
 }
 
+// ratModulo returns a rational number modulo m, for a denominator that is a unit.
+func ratModulo(t *testing.T, m int64, c *big.Rat) int64 {
+	t.Helper()
+	inverse := new(big.Int).ModInverse(c.Denom(), big.NewInt(m))
+	if inverse == nil {
+		t.Fatalf("%v has a denominator that is no unit modulo %d", c, m)
+	}
+	product := new(big.Int).Mul(c.Num(), inverse)
+	return product.Mod(product, big.NewInt(m)).Int64()
+}
+
 // lawModulo returns a law over the rational numbers modulo m, where its denominators have to be units.
 func lawModulo(t *testing.T, m int64, d int64, f [11][11]*big.Rat) impl.Plane {
 	t.Helper()
-	return filledPlane(m, d, func(i int64, j int64) int64 {
-		inverse := new(big.Int).ModInverse(f[i][j].Denom(), big.NewInt(m))
-		if inverse == nil {
-			t.Fatalf("%v at x^%d y^%d has a denominator that is no unit modulo %d", f[i][j], i, j, m)
-		}
-		product := new(big.Int).Mul(f[i][j].Num(), inverse)
-		return product.Mod(product, big.NewInt(m)).Int64()
-	})
+	return filledPlane(m, d, func(i int64, j int64) int64 { return ratModulo(t, m, f[i][j]) })
 }
 
 // remaindersOf returns the remainders of integers.
