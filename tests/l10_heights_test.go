@@ -603,29 +603,34 @@ func operationsOnHeights() map[string]func(f impl.Plane) ([]int64, int64) {
 	}
 }
 
-// TestHeightsMemory checks all functions of the chapter with a law with spare capacity behind its lists,
-// which have to stay as they are, also when results are written over.
+// checkListMemory checks that a function that returns a list does not change the law that it takes, or the spare
+// capacity behind its lists, also when the result is written over, and that equal calls have equal results.
+func checkListMemory(t *testing.T, name string, f impl.Plane, operation func(f impl.Plane) ([]int64, int64)) {
+	t.Helper()
+	for i, row := range f.Table {
+		f.Table[i] = append(row, 50)[:len(row)]
+	}
+	before := copyOfPlane(f)
+	first, code := operation(f)
+	if code != impl.ErrNone || len(first) == 0 {
+		t.Errorf("%s = %v, %d", name, first, code)
+	}
+	want := slices.Clone(first)
+	for i := range first[:cap(first)] {
+		first[:cap(first)][i] = -1
+	}
+	for i, row := range f.Table {
+		if !slices.Equal(row[:len(row)+1], append(before.Table[i], 50)) {
+			t.Errorf("%s changed or kept the list %d: %v", name, i, row[:len(row)+1])
+		}
+	}
+	wantsList(t, name, want, impl.ErrNone)(operation(f))
+}
+
+// TestHeightsMemory checks all functions of the chapter.
 func TestHeightsMemory(t *testing.T) {
 	for name, operation := range operationsOnHeights() {
-		f := madePlane(t, "TypicalLaw")(impl.TypicalLaw(2, 2, 10, []int64{1, 1}))
-		for i, row := range f.Table {
-			f.Table[i] = append(row, 50)[:len(row)]
-		}
-		before := copyOfPlane(f)
-		first, code := operation(f)
-		if code != impl.ErrNone || len(first) == 0 {
-			t.Errorf("%s = %v, %d", name, first, code)
-		}
-		want := slices.Clone(first)
-		for i := range first[:cap(first)] {
-			first[:cap(first)][i] = -1
-		}
-		for i, row := range f.Table {
-			if !slices.Equal(row[:len(row)+1], append(before.Table[i], 50)) {
-				t.Errorf("%s changed or kept the list %d: %v", name, i, row[:len(row)+1])
-			}
-		}
-		wantsList(t, name, want, impl.ErrNone)(operation(f))
+		checkListMemory(t, name, madePlane(t, "TypicalLaw")(impl.TypicalLaw(2, 2, 10, []int64{1, 1})), operation)
 	}
 	checkMemory(t, "HondaLaw", func(f impl.Plane, a impl.Series) (impl.Plane, int64) { return impl.HondaLaw(7, 1, 4) })
 }
